@@ -4,6 +4,7 @@ import (
 	"slices"
 
 	"tableau/api"
+	"tableau/reserved"
 )
 
 // isName tells whether it is a name, one of the words or not.
@@ -43,18 +44,9 @@ func isText(s string) bool {
 	return true
 }
 
-func isWord(s string) bool {
-	switch s {
-	case "card", "cost", "power", "health", "tag", "on", "when", "let", "if", "else", "repeat", "as", "each", "in", "choose",
-		"stop", "abort", "true", "false", "self", "me", "deck", "hand", "board", "grave", "play", "die", "hit", "turn", "draw":
-		return true
-	}
-	return false
-}
-
 // freeOr makes what tells of a text whether it is a free name, or one of these words.
 func freeOr(also ...string) func(s string) bool {
 	return func(s string) bool {
-		return isName(s) && (!isWord(s) || slices.Contains(also, s))
+		return isName(s) && (!reserved.Word(s) || slices.Contains(also, s))
 	}
 }
